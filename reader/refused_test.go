@@ -123,13 +123,19 @@ func TestLateWithoutACurrentWord(t *testing.T) {
 
 // The current word lies outside of the memory.
 func TestCurrentOutside(t *testing.T) {
-	for _, current := range []int{-1, -2, 40, 41, 1 << 32, 1 << 62, api.Poison, math.MaxInt, math.MinInt} {
-		for _, version := range []bool{false, true} {
-			s := small(t)
-			s.Current = current
-			x := machineOf(t, s, version)
-			wantRun(t, s.Memory, x, 0, "1 4=1 "+numbers(current)+" 4=0")
-			wantTold(t, s.Memory, x, 2, reader.Answer{Broken: true})
+	for _, flaw := range flaws() {
+		for _, current := range []int{-1, -2, 40, 41, 1 << 32, 1 << 62, api.Poison, math.MaxInt, math.MinInt} {
+			for _, version := range []bool{false, true} {
+				s := flawed(t, flaw)
+				s.Current = current
+				x := machineOf(t, s, version)
+				ahead := strings.Join(wayOf(flaw, version)[:pointOf(flaw)], " ")
+				wantRun(t, s.Memory, x, 0, ahead+" "+numbers(current)+" 4=0")
+				wantTold(t, s.Memory, x, pointOf(flaw), reader.Answer{Broken: true})
+				if t.Failed() {
+					t.Fatalf("flaw %d, Current %d", flaw, current)
+				}
+			}
 		}
 	}
 }
@@ -154,30 +160,30 @@ func TestAPageOutside(t *testing.T) {
 
 // The page's words end where the memory ends, each of them in its turn: the load of the first one that is not there breaks the check.
 func TestAPageThatIsCutOff(t *testing.T) {
-	way := wayOf(0, false)
-	broken := map[string]bool{}
-	for size := pageAt + 1; size <= pageAt+len(laid()); size++ {
-		s := siteOf(t, size, laid()[:size-pageAt]...)
-		cut := slices.IndexFunc(way, func(access string) bool {
-			addr, e := strconv.Atoi(access)
-			return e == nil && addr >= size
-		})
-		x := openDoor(t, s, nil)
-		want := reader.Answer{Allowed: true, Version: 5, Page: 10}
-		accesses := way
-		if cut >= 0 {
-			want = reader.Answer{Broken: true, Version: 5, Page: 10}
-			accesses = append(slices.Clone(way[:cut+1]), "4=0")
-			broken[way[cut]] = true
+	for _, flaw := range flaws() {
+		broken := map[string]bool{}
+		for size := pageAt + 1; size <= pageAt+len(laid()); size++ {
+			s := siteOf(t, size, laid()[:size-pageAt]...)
+			s.Flaw = flaw
+			way, want := wayOf(flaw, false), reader.Answer{Allowed: true, Version: 5, Page: 10}
+			cut := slices.IndexFunc(way, func(access string) bool {
+				addr, e := strconv.Atoi(access)
+				return e == nil && addr >= size
+			})
+			if cut >= 0 {
+				broken[way[cut]] = true
+				way, want = append(way[:cut+1], "4=0"), reader.Answer{Broken: true, Version: 5, Page: 10}
+			}
+			x := openDoor(t, s, nil)
+			wantRun(t, s.Memory, x, 0, strings.Join(way, " "))
+			wantTold(t, s.Memory, x, pointOf(flaw), want)
+			y := versionOf(t, s, 0)
+			wantRun(t, s.Memory, y, 0, strings.Join(wayOf(flaw, true), " "))
+			wantTold(t, s.Memory, y, pointOf(flaw), reader.Answer{Version: 5, Page: 10})
 		}
-		wantRun(t, s.Memory, x, 0, strings.Join(accesses, " "))
-		wantTold(t, s.Memory, x, 2, want)
-		y := versionOf(t, s, 0)
-		wantRun(t, s.Memory, y, 0, "1 4=1 0 10 4=0")
-		wantTold(t, s.Memory, y, 2, reader.Answer{Version: 5, Page: 10})
-	}
-	if len(broken) != 4 { // of the words 11, 28, 29 and 30: all others lie ahead of one that is loaded earlier
-		t.Errorf("%v", broken)
+		if len(broken) != 4 || t.Failed() { // of the words 11, 28, 29 and 30: all others lie ahead of one that is loaded earlier
+			t.Fatalf("flaw %d: %v", flaw, broken)
+		}
 	}
 }
 
