@@ -20,13 +20,13 @@ func Policy(p api.Policy) api.Policy {
 		Parts:    list(p.Parts, pair),
 		Withins:  list(p.Withins, pair),
 		Rules:    list(p.Rules, rule),
-		Excepts:  list(p.Excepts, triple),
+		Excepts:  list(p.Excepts, Triple),
 	}
 }
 
 // Op is the same operation in memory that nobody else has.
 func Op(op api.Op) api.Op {
-	return api.Op{Kind: op.Kind, Triple: triple(op.Triple), Text: strings.Clone(op.Text), Deltas: list(op.Deltas, delta)}
+	return api.Op{Kind: op.Kind, Triple: Triple(op.Triple), Text: strings.Clone(op.Text), Deltas: list(op.Deltas, delta)}
 }
 
 // list is a new list, nil if there is nothing in it.
@@ -50,10 +50,11 @@ func rule(r api.Rule) api.Rule {
 	return api.Rule{Deny: r.Deny, Who: strings.Clone(r.Who), What: strings.Clone(r.What), Actions: list(r.Actions, strings.Clone), Cond: r.Cond, Level: r.Level}
 }
 
-func triple(t api.Triple) api.Triple {
+// Triple is the same triple, with texts that nobody else has.
+func Triple(t api.Triple) api.Triple {
 	return api.Triple{Subject: strings.Clone(t.Subject), Object: strings.Clone(t.Object), Action: strings.Clone(t.Action)}
 }
 
 func delta(d api.Delta) api.Delta {
-	return api.Delta{Kind: d.Kind, Rule: rule(d.Rule), At: d.At, Name: strings.Clone(d.Name), Trust: d.Trust, Pair: pair(d.Pair), Triple: triple(d.Triple)}
+	return api.Delta{Kind: d.Kind, Rule: rule(d.Rule), At: d.At, Name: strings.Clone(d.Name), Trust: d.Trust, Pair: pair(d.Pair), Triple: Triple(d.Triple)}
 }

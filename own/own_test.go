@@ -100,8 +100,12 @@ func TestACopyIsTheSameAndApart(t *testing.T) {
 	if q := own.Op(op); !reflect.DeepEqual(q, op) {
 		t.Errorf("%+v, want %+v", q, op)
 	}
+	if q := own.Triple(op.Triple); q != op.Triple {
+		t.Errorf("%+v, want %+v", q, op.Triple)
+	}
 	wantApart(t, p, own.Policy(p))
 	wantApart(t, op, own.Op(op))
+	wantApart(t, op, own.Triple(op.Triple))
 	wantApart(t, own.Policy(p), own.Policy(p))
 	wantApart(t, own.Op(op), own.Op(op))
 }
